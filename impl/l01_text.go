@@ -104,3 +104,8 @@ func Clamp(n int, low int, high int) int {
 	// The lower end is applied last, since it wins if high is less than low.
 	return max(low, min(n, high))
 }
+
+// inRange reports whether n is in the range low to high.
+func inRange(n int, low int, high int) bool {
+	return n >= low && n <= high
+}
