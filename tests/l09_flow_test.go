@@ -43,6 +43,19 @@ func flowNets() []impl.Net {
 	return append(nets, validNets()...)
 }
 
+// tinyNets have few flows, so that all of them can be tried.
+func tinyNets() []impl.Net {
+	return []impl.Net{
+		net(4, pipe(0, 1, 1), pipe(1, 2, 2), pipe(2, 3, 1), pipe(0, 2, 1), pipe(1, 3, 2)),
+		net(4, pipe(0, 1, 2), pipe(1, 2, 1), pipe(2, 3, 2), pipe(2, 1, 2), pipe(3, 0, 1)),
+		net(5, pipe(0, 1, 2), pipe(1, 2, 1), pipe(2, 1, 1), pipe(2, 4, 2), pipe(1, 4, 1)),
+		net(4, pipe(0, 1, 1), pipe(0, 2, 1), pipe(1, 3, 1), pipe(2, 3, 1), pipe(1, 2, 1), pipe(2, 1, 1)),
+		net(3, pipe(0, 1, 2), pipe(0, 1, 1), pipe(1, 2, 2), pipe(2, 0, 1)),
+		net(4, pipe(3, 2, 2), pipe(2, 1, 2), pipe(1, 0, 2)),
+		net(3), net(2, pipe(0, 1, 2), pipe(1, 0, 1), pipe(0, 1, 1)),
+	}
+}
+
 // passes is what comes into a place and what goes out of it.
 func passes(n impl.Net, flow []int, place int) (int, int) {
 	in, out := 0, 0
@@ -163,23 +176,34 @@ func timesBack(n impl.Net, ways [][]wayStep) []int {
 	return times
 }
 
-// leastLeaving is the least that the pipes are wide together which leave a set of places with from, but not to.
-func leastLeaving(n impl.Net, from int, to int) int {
-	least := math.MaxInt
+// hasPlace reports whether a set, as a sum of powers of 2, has a place.
+func hasPlace(set int, place int) bool {
+	return set>>place&1 == 1
+}
+
+// widthLeaving is how wide the pipes are together which leave a set of places.
+func widthLeaving(n impl.Net, set int) int {
+	width := 0
+	for _, p := range n.Pipes {
+		if hasPlace(set, p.From) && !hasPlace(set, p.To) {
+			width += p.Width
+		}
+	}
+	return width
+}
+
+// leastLeaving is the least that the pipes are wide together which leave a set of places with from, but not to, and the first such set.
+func leastLeaving(n impl.Net, from int, to int) (int, int) {
+	least, first := math.MaxInt, -1
 	for set := range 1 << n.Places {
-		in := func(place int) bool { return set>>place&1 == 1 }
-		if !in(from) || in(to) {
+		if !hasPlace(set, from) || hasPlace(set, to) {
 			continue
 		}
-		width := 0
-		for _, p := range n.Pipes {
-			if in(p.From) && !in(p.To) {
-				width += p.Width
-			}
+		if width := widthLeaving(n, set); width < least {
+			least, first = width, set
 		}
-		least = min(least, width)
 	}
-	return least
+	return least, first
 }
 
 // eachFlow visits all lists that have an amount for each pipe, from so much below 0 up to so much above its Width.
@@ -365,28 +389,38 @@ func checkNoEnds(t *testing.T, n impl.Net, from int, to int) {
 	}
 }
 
-func TestInvalidFlowNets(t *testing.T) {
+// eachInvalidNet visits all nets that are not valid, each one with several places.
+func eachInvalidNet(visit func(n impl.Net, from int, to int)) {
 	for _, n := range invalidNets() {
 		for _, from := range []int{-1, 0, 1, 6} {
 			for _, to := range []int{-1, 0, 1, 7, n.Places - 1, n.Places} {
-				checkNoEnds(t, n, from, to)
+				visit(n, from, to)
 			}
 		}
 	}
 }
 
+// eachWrongEnds visits pairs that are not two different places of a net.
+func eachWrongEnds(n impl.Net, visit func(from int, to int)) {
+	for place := range n.Places {
+		visit(place, place)
+		for _, wrong := range append(wrongPlaces(n), 63, 64, 65) {
+			visit(wrong, place)
+			visit(place, wrong)
+			visit(wrong, wrong)
+		}
+	}
+	visit(-1, n.Places)
+	visit(n.Places, -1)
+}
+
+func TestInvalidFlowNets(t *testing.T) {
+	eachInvalidNet(func(n impl.Net, from int, to int) { checkNoEnds(t, n, from, to) })
+}
+
 func TestInvalidFlowEnds(t *testing.T) {
 	for _, n := range flowNets() {
-		for place := range n.Places {
-			checkNoEnds(t, n, place, place)
-			for _, wrong := range wrongPlaces(n) {
-				checkNoEnds(t, n, wrong, place)
-				checkNoEnds(t, n, place, wrong)
-				checkNoEnds(t, n, wrong, wrong)
-			}
-		}
-		checkNoEnds(t, n, -1, n.Places)
-		checkNoEnds(t, n, n.Places, -1)
+		eachWrongEnds(n, func(from int, to int) { checkNoEnds(t, n, from, to) })
 	}
 }
 
@@ -496,12 +530,7 @@ func TestChangedAmounts(t *testing.T) {
 
 // TestAllFlows tries all amounts of small nets, also some below 0 and above the Width: none is greater than GreatestFlow, and one is as great.
 func TestAllFlows(t *testing.T) {
-	tiny := []impl.Net{
-		net(4, pipe(0, 1, 1), pipe(1, 2, 2), pipe(2, 3, 1), pipe(0, 2, 1), pipe(1, 3, 2)),
-		net(4, pipe(0, 1, 2), pipe(1, 2, 1), pipe(2, 3, 2), pipe(2, 1, 2), pipe(3, 0, 1)),
-		net(5, pipe(0, 1, 2), pipe(1, 2, 1), pipe(2, 1, 1), pipe(2, 4, 2), pipe(1, 4, 1)),
-	}
-	for _, n := range append(smallNets(), tiny...) {
+	for _, n := range append(smallNets(), tinyNets()...) {
 		greatest := make([]int, n.Places*n.Places)
 		eachFlow(n, 0, func(flow []int) {
 			for from := range n.Places {
@@ -519,7 +548,7 @@ func TestAllFlows(t *testing.T) {
 			}
 		}
 	}
-	for _, n := range tiny {
+	for _, n := range tinyNets() {
 		eachFlow(n, 1, func(flow []int) { checkFlow(t, n, flow, 0, n.Places-1) })
 	}
 }
@@ -558,7 +587,7 @@ func checkGreatest(t *testing.T, n impl.Net, from int, to int) int {
 		t.Errorf("FindFlow(%v, %d, %d): %v %v instead of %v", n, from, to, flow, ok, want)
 	}
 	checkFlow(t, n, flow, from, to)
-	least := leastLeaving(n, from, to)
+	least, _ := leastLeaving(n, from, to)
 	if size := plainFlowSize(n, flow, from, to); size != least || impl.FlowSize(n, flow, from, to) != least {
 		t.Errorf("%v has from %d to %d a flow of %d, and %d can leave", n, from, to, size, least)
 	}
@@ -712,33 +741,45 @@ func TestIsUsed(t *testing.T) {
 	}
 }
 
-// TestFlowsAreNotChanged calls each function with pipes and amounts that are parts of longer lists, and writes into the results.
-func TestFlowsAreNotChanged(t *testing.T) {
-	for _, given := range slices.Concat(flowNets(), invalidNets()) {
-		n, longNet := withSpare(given)
-		found, _ := impl.FindFlow(given, 0, 1)
-		for _, amounts := range [][]int{found, make([]int, len(n.Pipes)), slices.Repeat([]int{-1}, len(n.Pipes)), {1, 2}} {
-			longFlow := append(slices.Clone(amounts), 77, -77)
-			flow := longFlow[:len(amounts)]
-			beforeNet, beforeFlow := slices.Clone(longNet), slices.Clone(longFlow)
-			for range 2 {
-				for to := -1; to <= 8; to++ {
-					impl.FlowOk(n, flow, 0, to)
-					impl.FlowSize(n, flow, 0, to)
-					impl.GreatestFlow(n, 0, to)
-					got, _ := impl.FindFlow(n, 0, to)
-					for i := range got {
-						got[i] = -99
-					}
-					_ = append(got, -99)
-					impl.IsUsed(n, flow, to)
-				}
-			}
-			if !slices.Equal(longNet, beforeNet) || !slices.Equal(longFlow, beforeFlow) {
-				t.Errorf("the pipes have become %v instead of %v, and the amounts %v instead of %v", longNet, beforeNet, longFlow, beforeFlow)
-			}
+// checkNotChanged calls functions with pipes and amounts that are parts of longer lists, which must stay as they are.
+func checkNotChanged(t *testing.T, given impl.Net, call func(n impl.Net, flow []int)) {
+	t.Helper()
+	n, longNet := withSpare(given)
+	found, _ := impl.FindFlow(given, 0, 1)
+	for _, amounts := range [][]int{found, make([]int, len(n.Pipes)), slices.Repeat([]int{-1}, len(n.Pipes)), {1, 2}} {
+		longFlow := append(slices.Clone(amounts), 77, -77)
+		beforeNet, beforeFlow := slices.Clone(longNet), slices.Clone(longFlow)
+		for range 2 {
+			call(n, longFlow[:len(amounts)])
+		}
+		if !slices.Equal(longNet, beforeNet) || !slices.Equal(longFlow, beforeFlow) {
+			t.Errorf("the pipes have become %v instead of %v, and the amounts %v instead of %v", longNet, beforeNet, longFlow, beforeFlow)
 		}
 	}
+}
+
+// TestFlowsAreNotChanged calls each function, and writes into the results.
+func TestFlowsAreNotChanged(t *testing.T) {
+	for _, given := range slices.Concat(flowNets(), invalidNets()) {
+		checkNotChanged(t, given, func(n impl.Net, flow []int) {
+			for to := -1; to <= 8; to++ {
+				impl.FlowOk(n, flow, 0, to)
+				impl.FlowSize(n, flow, 0, to)
+				impl.GreatestFlow(n, 0, to)
+				found, _ := impl.FindFlow(n, 0, to)
+				spoilNumbers(found)
+				impl.IsUsed(n, flow, to)
+			}
+		})
+	}
+}
+
+// spoilNumbers writes into the memory of a result.
+func spoilNumbers(list []int) {
+	for i := range list {
+		list[i] = -99
+	}
+	_ = append(list, -99)
 }
 
 // TestFoundFlowsKeepTheirAmounts writes into the pipes, and finds other flows, after a flow is found.
